@@ -348,18 +348,8 @@ func TestWrittenIsRead(t *testing.T) {
 	held(t, Bytes, Read, bytes)
 }
 
-// TestNumbers: numbers of each size are laid, taken and told alike.
+// TestNumbers: numbers of another size than an address has are told alike.
 func TestNumbers(t *testing.T) {
-	if got := string(lay(lay(lay([]byte("a"), uint8(1)), uint16(0x0203)), uint32(0x04050607))); got != "a\x01\x02\x03\x04\x05\x06\x07" {
-		t.Errorf("laid are %x", got)
-	}
-	type own uint16
-	a, s := take[uint8]("\x01\x02\x03\x04\x05\x06\x07z")
-	b, s := take[own](s)
-	c, s := take[uint32](s)
-	if a != 1 || b != 0x0203 || c != 0x04050607 || s != "z" {
-		t.Errorf("taken are %x, %x, %x, and left is %q", a, b, c, s)
-	}
 	if n, ok := told[uint32]("4294967295"); n != 1<<32-1 || !ok {
 		t.Errorf("told is %d, %v", n, ok)
 	}
