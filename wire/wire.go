@@ -21,6 +21,14 @@ func Lay[N Number](b []byte, n N) []byte {
 	return b
 }
 
+// Put lays the bytes of n over those that stand in b from that place on; over none, if b has not as many there.
+func Put[N Number](b []byte, place int, n N) {
+	if place < 0 || place > len(b)-Size[N]() {
+		return
+	}
+	copy(b[place:], Lay(nil, n))
+}
+
 // At is the number whose first byte is the one of s at that place: 0, if s has not all its bytes there.
 func At[N Number](s string, place int) N {
 	size := Size[N]()

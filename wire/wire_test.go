@@ -27,6 +27,54 @@ func TestLay(t *testing.T) {
 	}
 }
 
+// put is b with n's bytes, told apart here, laid over those from that place on where all of them are.
+func put(b string, place int, n ...byte) string {
+	if place < 0 || place+len(n) > len(b) {
+		return b
+	}
+	return b[:place] + string(n) + b[place+len(n):]
+}
+
+// TestPut: a number is laid where there is room for all its bytes; elsewhere nothing is.
+func TestPut(t *testing.T) {
+	const s = "abcdefg"
+	for n := range len(s) + 1 {
+		for place := -6; place < n+6; place++ {
+			a, b, c, d := []byte(s[:n]), []byte(s[:n]), []byte(s[:n]), []byte(s[:n])
+			Put(a, place, uint8(0x81))
+			Put(b, place, uint16(0x8203))
+			Put(c, place, uint32(0x84050607))
+			Put(d, place, own(0x8809))
+			if string(a) != put(s[:n], place, 0x81) || string(b) != put(s[:n], place, 0x82, 3) || string(c) != put(s[:n], place, 0x84, 5, 6, 7) || string(d) != put(s[:n], place, 0x88, 9) {
+				t.Errorf("put at %d of %q: %x, %x, %x, %x", place, s[:n], a, b, c, d)
+			}
+		}
+	}
+	for _, place := range []int{math.MinInt, math.MinInt + 4, math.MaxInt - 4, math.MaxInt} {
+		b := []byte(s)
+		Put(b, place, uint8(1))
+		Put(b, place, uint16(1))
+		Put(b, place, uint32(1))
+		if string(b) != s {
+			t.Errorf("put at %d: %x", place, b)
+		}
+	}
+}
+
+// TestPutKeepsBehind: what is behind the end of the slice stays, though there is room.
+func TestPutKeepsBehind(t *testing.T) {
+	b := []byte("abcdefg")
+	Put(b[:4], 1, uint32(0x01020304))
+	Put(b[:4], 4, uint8(1))
+	if string(b) != "abcdefg" {
+		t.Errorf("put is %x", b)
+	}
+	Put(b[:4], 2, uint16(0x0102))
+	if string(b) != "abefg" {
+		t.Errorf("put is %x", b)
+	}
+}
+
 // whole is the number of size bytes at that place of s, told byte by byte; 0, if one is wanting.
 func whole(s string, place, size int) uint64 {
 	var n uint64
